@@ -3,6 +3,7 @@ package tests
 import (
 	"fmt"
 	"reflect"
+	"slices"
 	"strings"
 	"testing"
 
@@ -208,4 +209,17 @@ func checkPure(t *testing.T, name string, f any, pool map[reflect.Type][]any) {
 			t.Errorf("%s changes its arguments from %s to %s", name, before, after)
 		}
 	})
+}
+
+// checkSeparate checks that no two lists of a result share memory: those behind an overwritten one stay what they should be.
+func checkSeparate(t *testing.T, what string, got, want [][]int64) {
+	t.Helper()
+	for i := range got {
+		scribble(reflect.ValueOf(got[i]))
+		for later := i + 1; later < len(got); later++ {
+			if !slices.Equal(got[later], want[later]) {
+				t.Fatalf("%s: the lists %d and %d share memory", what, i, later)
+			}
+		}
+	}
 }

@@ -45,18 +45,7 @@ func TestRingsOf(t *testing.T) {
 func TestRingsShareNoMemory(t *testing.T) {
 	for _, c := range someCounters() {
 		rings, _ := impl.RingsOf(c)
-		want := ringsOf(c)
-		for i := range rings {
-			whole := rings[i][:cap(rings[i])]
-			for j := range whole {
-				whole[j] = -77
-			}
-			for later := i + 1; later < len(rings); later++ {
-				if !slices.Equal(rings[later], want[later]) {
-					t.Fatalf("RingsOf %v: the rings %d and %d share memory", c, i, later)
-				}
-			}
-		}
+		checkSeparate(t, fmt.Sprint("RingsOf ", c), rings, ringsOf(c))
 	}
 }
 

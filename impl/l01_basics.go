@@ -226,6 +226,13 @@ func levelOf(on bool) rune {
 	return '0'
 }
 
+// areWaves reports whether these are waves of as many ticks.
+func areWaves(list ...string) bool {
+	return !slices.ContainsFunc(list, func(w string) bool {
+		return !IsWave(w) || len(w) != len(list[0])
+	})
+}
+
 // isJoined reports whether two levels, on or off, make the level 1 by an op.
 func isJoined(op int64, a, b bool) bool {
 	switch op {
@@ -239,16 +246,23 @@ func isJoined(op int64, a, b bool) bool {
 	return a && !b
 }
 
-// JoinWaves returns the levels that both waves make.
-func JoinWaves(op int64, a, b string) (string, bool) {
-	if !within(op, 0, 3) || !IsWave(a) || !IsWave(b) || len(a) != len(b) {
-		return "", false
-	}
+// joinedWave returns the wave with the levels that join makes of those of two waves with as many ticks, one tick after another.
+func joinedWave(a, b string, join func(a, b bool) bool) string {
 	var joined strings.Builder
 	for tick := range len(a) {
-		joined.WriteRune(levelOf(isJoined(op, a[tick] == '1', b[tick] == '1')))
+		joined.WriteRune(levelOf(join(a[tick] == '1', b[tick] == '1')))
 	}
-	return joined.String(), true
+	return joined.String()
+}
+
+// JoinWaves returns the levels that both waves make.
+func JoinWaves(op int64, a, b string) (string, bool) {
+	if !within(op, 0, 3) || !areWaves(a, b) {
+		return "", false
+	}
+	return joinedWave(a, b, func(a, b bool) bool {
+		return isJoined(op, a, b)
+	}), true
 }
 
 // NotWave returns the other levels.

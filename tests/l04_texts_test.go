@@ -61,7 +61,7 @@ func TestDiagramText(t *testing.T) {
 func changedTexts(text string) func(yield func(string) bool) {
 	return func(yield func(string) bool) {
 		for i := range len(text) + 1 {
-			for _, letter := range "0192,.-+ x\n" {
+			for _, letter := range "0192,./-+ x\n" {
 				if !yield(text[:i] + string(letter) + text[i:]) {
 					return
 				}
